@@ -328,25 +328,14 @@ func TestIntInverse(t *testing.T) {
 			t.Fatalf("ParseInt of FormatInt(%d) = %d, %v", n, got, ok)
 		}
 	}
-	const bytes = "0123456789-+ x\xff"
-	words := []string{""}
-	for range 3 {
-		var longer []string
-		for _, w := range words {
-			for i := range len(bytes) {
-				longer = append(longer, w+bytes[i:i+1])
-			}
+	for _, s := range wordsOf("0123456789-+ x\xff", 3) {
+		want, err := strconv.Atoi(s)
+		valid := err == nil && strconv.Itoa(want) == s
+		if !valid {
+			want = 0
 		}
-		for _, s := range longer {
-			want, err := strconv.Atoi(s)
-			valid := err == nil && strconv.Itoa(want) == s
-			if !valid {
-				want = 0
-			}
-			if got, ok := impl.ParseInt(s); got != want || ok != valid {
-				t.Fatalf("ParseInt(%q) = %d, %v, want %d, %v", s, got, ok, want, valid)
-			}
+		if got, ok := impl.ParseInt(s); got != want || ok != valid {
+			t.Fatalf("ParseInt(%q) = %d, %v, want %d, %v", s, got, ok, want, valid)
 		}
-		words = longer
 	}
 }
