@@ -199,6 +199,11 @@ func TestIsDatabaseSizes(t *testing.T) {
 // smallDatabases returns all databases of these six facts, with the facts.
 func smallDatabases() ([][]impl.Fact, []impl.Fact) {
 	facts := []impl.Fact{{Args: []int{0, 99}}, {Args: []int{2, 10}}, {Args: []int{10, 2}}, {Rel: 1, Args: []int{0}}, {Rel: 1, Args: []int{5}}, {Rel: 2, Args: []int{0, 0, 0}}}
+	return databasesOf(facts), facts
+}
+
+// databasesOf returns all databases of these facts, which are in order.
+func databasesOf(facts []impl.Fact) [][]impl.Fact {
 	var all [][]impl.Fact
 	for set := range 1 << len(facts) {
 		var db []impl.Fact
@@ -209,7 +214,7 @@ func smallDatabases() ([][]impl.Fact, []impl.Fact) {
 		}
 		all = append(all, db)
 	}
-	return all, facts
+	return all
 }
 
 // withFact returns the facts and f in order, each once.

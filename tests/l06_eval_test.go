@@ -260,6 +260,21 @@ func TestAnswers(t *testing.T) {
 	}
 }
 
+// smallAtoms returns all atoms of these terms, of a relation with two arguments
+// and of one with one.
+func smallAtoms(terms []int) []impl.Atom {
+	var atoms []impl.Atom
+	for _, args := range shortLists(terms, 2)[1:] {
+		atoms = append(atoms, impl.Atom{Rel: 2 - len(args), Args: args})
+	}
+	return atoms
+}
+
+// binaryFacts returns all facts of these relations with the values 0 and 1.
+func binaryFacts() []impl.Fact {
+	return []impl.Fact{{Args: []int{0, 0}}, {Args: []int{0, 1}}, {Args: []int{1, 0}}, {Args: []int{1, 1}}, {Rel: 1, Args: []int{0}}, {Rel: 1, Args: []int{1}}}
+}
+
 // smallQueries returns the queries with this body and a head of up to two of
 // these terms.
 func smallQueries(body []impl.Atom, terms []int) []impl.Query {
@@ -277,24 +292,15 @@ func smallQueries(body []impl.Atom, terms []int) []impl.Query {
 func TestEvaluationOfAllSmallQueries(t *testing.T) {
 	s := impl.Schema{Arity: []int{2, 1}}
 	terms := []int{0, 1, -1}
-	var atoms []impl.Atom
-	for _, args := range shortLists(terms, 2)[1:] {
-		atoms = append(atoms, impl.Atom{Rel: 2 - len(args), Args: args})
-	}
-	facts := []impl.Fact{{Args: []int{0, 0}}, {Args: []int{0, 1}}, {Args: []int{1, 0}}, {Args: []int{1, 1}}, {Rel: 1, Args: []int{0}}, {Rel: 1, Args: []int{1}}}
+	atoms := smallAtoms(terms)
+	databases := databasesOf(binaryFacts())
 	for _, a := range atoms {
 		bodies := [][]impl.Atom{{a}}
 		for _, b := range atoms {
 			bodies = append(bodies, []impl.Atom{a, b})
 		}
 		for _, body := range bodies {
-			for set := range 1 << len(facts) {
-				var db []impl.Fact
-				for n, f := range facts {
-					if set>>n&1 == 1 {
-						db = append(db, f)
-					}
-				}
+			for _, db := range databases {
 				bindings := triedBindings(body, db)
 				for _, q := range smallQueries(body, terms) {
 					checkEvaluation(t, s, q, db, bindings)
