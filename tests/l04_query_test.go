@@ -548,18 +548,8 @@ func shortTexts(parts []string, length int) []string {
 func TestParseQueryChangedByte(t *testing.T) {
 	r := newQueryReader()
 	for _, text := range []string{"yes :- r1(3)", "X0,3 :- r0(X0,X1); r1(X1)", "7 :- r2(X0,X10,79)", "X1,X1,X19 :- r1(X1); r1(X19); r0(X1,0); r1(7)"} {
-		for i := range len(text) + 1 {
-			for b := range 256 {
-				changed := text[:i] + string([]byte{byte(b)})
-				r.check(t, changed+text[i:])
-				if i < len(text) {
-					r.check(t, changed+text[i+1:])
-				}
-			}
-			for j := i; j <= len(text); j++ {
-				r.check(t, text[:i]+text[j:])
-				r.check(t, text[:j]+text[i:])
-			}
+		for _, changed := range changedTexts(text) {
+			r.check(t, changed)
 		}
 	}
 }

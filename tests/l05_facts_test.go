@@ -562,18 +562,8 @@ func TestParseFactShortStrings(t *testing.T) {
 func TestParseFactChangedByte(t *testing.T) {
 	r := newFactReader()
 	for _, text := range []string{"r1(3)", "r1(99)", "r0(1,2)", "r0(10,79)", "r2(0,80,99)"} {
-		for i := range len(text) + 1 {
-			for b := range 256 {
-				changed := text[:i] + string([]byte{byte(b)})
-				r.check(t, changed+text[i:])
-				if i < len(text) {
-					r.check(t, changed+text[i+1:])
-				}
-			}
-			for j := i; j <= len(text); j++ {
-				r.check(t, text[:i]+text[j:])
-				r.check(t, text[:j]+text[i:])
-			}
+		for _, changed := range changedTexts(text) {
+			r.check(t, changed)
 		}
 	}
 }

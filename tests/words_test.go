@@ -16,3 +16,22 @@ func wordsOf(bytes string, length int) []string {
 	}
 	return all
 }
+
+// changedTexts returns what arises from a text by any byte before, behind or in
+// place of one of its bytes, and the texts that lack or repeat a part of it.
+func changedTexts(text string) []string {
+	var all []string
+	for i := range len(text) + 1 {
+		for b := range 256 {
+			changed := text[:i] + string([]byte{byte(b)})
+			all = append(all, changed+text[i:])
+			if i < len(text) {
+				all = append(all, changed+text[i+1:])
+			}
+		}
+		for j := i; j <= len(text); j++ {
+			all = append(all, text[:i]+text[j:], text[:j]+text[i:])
+		}
+	}
+	return all
+}
